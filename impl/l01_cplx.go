@@ -39,7 +39,7 @@ func CxLanes(list []Cx) Cx {
 	for i := range len(list) {
 		lanes[i%laneCount] += wideOf(list[i])
 	}
-	return cxOf((lanes[0] + lanes[1]) + (lanes[2] + lanes[3]))
+	return cxOf(joinLanes(lanes))
 }
 
 func Narrow(a Cx) Cs { return csOf(complex64(wideOf(a))) }
@@ -55,6 +55,10 @@ func NarrowRow(row []Cx, by Cs) []Cs {
 		out[i] = csOf(mulSlim(slimOf(Narrow(row[i])), slimOf(by)))
 	}
 	return out
+}
+
+func joinLanes(lanes [laneCount]complex128) complex128 {
+	return (lanes[0] + lanes[1]) + (lanes[2] + lanes[3])
 }
 
 func wideOf(a Cx) complex128 { return complex(a.Re, a.Im) }

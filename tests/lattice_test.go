@@ -198,13 +198,19 @@ func formOf(f impl.Form, x, y, z, w int64) impl.Form {
 	return impl.Form{A: formAt(f, x, y), B: f.A*x*z + f.B*(x*w+y*z) + f.C*y*w, C: formAt(f, z, w)}
 }
 
-// shortsByRule asks every pair within a square that has them all.
-func shortsByRule(f impl.Form, most int64) []impl.Form {
-	list := []impl.Form{}
+// sideFor: half that of a square that has all (x, y) up to most.
+func sideFor(f impl.Form, most int64) int64 {
 	side := int64(0)
 	for formDet(f)*side*side <= most*max(f.A, f.C) {
 		side++
 	}
+	return side
+}
+
+// shortsByRule asks every pair within a square that has them all.
+func shortsByRule(f impl.Form, most int64) []impl.Form {
+	list := []impl.Form{}
+	side := sideFor(f, most)
 	for x := int64(0); x <= side; x++ {
 		for y := -side; y <= side; y++ {
 			if n := formAt(f, x, y); n <= most && (x > 0 || y > 0) {

@@ -202,7 +202,7 @@ func gcd(a, b int64) int64 {
 	for b != 0 {
 		a, b = b, a%b
 	}
-	return a
+	return max(a, -a)
 }
 
 // times: how often each row stands, rows whose sums are whole together alike.

@@ -175,7 +175,7 @@ func TestMergeHangsOnNoOrder(t *testing.T) {
 		for _, count := range []int{2, 7, 40} {
 			obs := d.obsUnder(g, 4, count, 20)
 			want, lost := impl.Merge(g, obs), impl.Lost(g, obs)
-			for _, other := range [][]impl.Obs{reversedObs(obs), shuffledObs(&d, obs), shuffledObs(&d, obs), slices.Concat(obs[1:], obs[:1])} {
+			for _, other := range [][]impl.Obs{reversedObs(obs), shuffledList(&d, obs), shuffledList(&d, obs), slices.Concat(obs[1:], obs[:1])} {
 				if got := impl.Merge(g, other); !slices.Equal(got, want) || impl.Lost(g, other) != lost {
 					t.Error(s.name, obs, other, got, want)
 				}
@@ -678,7 +678,7 @@ func TestOutliersOfShuffledLists(t *testing.T) {
 			}
 			return slices.Sorted(slices.Values(out))
 		}
-		other := shuffledObs(&d, list)
+		other := shuffledList(&d, list)
 		if got, want := taken(other), taken(list); !slices.Equal(got, want) {
 			t.Error(list, other, got, want)
 		} else if len(got) > 1 && len(got) < len(list)-2 {

@@ -186,8 +186,8 @@ func outliersByRule(list []impl.Obs, most int64) []int64 {
 	return slices.Sorted(slices.Values(outliersInTurn(list, most)))
 }
 
-func shuffledObs(d *dice, obs []impl.Obs) []impl.Obs {
-	out := slices.Clone(obs)
+func shuffledList[T any](d *dice, list []T) []T {
+	out := slices.Clone(list)
 	for i := range out {
 		j := d.between(0, int64(i))
 		out[i], out[j] = out[j], out[i]
